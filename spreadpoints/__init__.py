@@ -1,0 +1,1 @@
+"""Points that stay spread."""
