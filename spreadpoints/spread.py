@@ -1,17 +1,34 @@
 """Points put on a line one after another, spread as evenly as can be."""
 
 OUT_OF_RANGE = -2
+NOT_BELOW = -3
 
 LEAST_TURN_BASE = 2
 GREATEST_TURN_BASE = 16
 GREATEST_TURN_NUMBER = 4294967295
 
+GREATEST_LINE_COUNT = 4096
+GREATEST_LINE_LENGTH = 2147483647
+
+
+def in_range(number, least, greatest):
+    """Tell whether number is from least to greatest."""
+    return least <= number and number <= greatest
+
+
+def all_below(numbers, bound):
+    """Tell whether each of the numbers is below bound."""
+    for number in numbers:
+        if number >= bound:
+            return False
+    return True
+
 
 def sp_turn(b, n):
     """Answer how many digits n has to the base b, then the number that they are the other way about."""
-    if b < LEAST_TURN_BASE or b > GREATEST_TURN_BASE:
+    if not in_range(b, LEAST_TURN_BASE, GREATEST_TURN_BASE):
         return [OUT_OF_RANGE]
-    if n < 0 or n > GREATEST_TURN_NUMBER:
+    if not in_range(n, 0, GREATEST_TURN_NUMBER):
         return [OUT_OF_RANGE]
     digits = 0
     turned = 0
@@ -22,3 +39,31 @@ def sp_turn(b, n):
         rest = rest // b
         digits = digits + 1
     return [digits, turned]
+
+
+def line_refusal(n, q, a):
+    """Give the refusal of n points a / q on a line, or 0 if there is none."""
+    if not in_range(n, 1, GREATEST_LINE_COUNT) or not in_range(q, 1, GREATEST_LINE_LENGTH):
+        return OUT_OF_RANGE
+    if not all_below(a, q):
+        return NOT_BELOW
+    return 0
+
+
+def sp_star(n, q, a):
+    """Answer 0, then how far the count of the n points a / q below some place is off an even spread, times n q."""
+    refusal = line_refusal(n, q, a)
+    if refusal != 0:
+        return [refusal]
+    points = sorted(a)
+    # At y = q both differences are 0, as all n points are below q; so the points alone are gone through.
+    greatest = 0
+    below = 0
+    while below < n:
+        y = points[below]
+        no_greater = below
+        while no_greater < n and points[no_greater] == y:
+            no_greater = no_greater + 1
+        greatest = max(greatest, abs(q * below - n * y), abs(q * no_greater - n * y))
+        below = no_greater
+    return [0, greatest]

@@ -1,22 +1,17 @@
 """Tests of sp_turn: point 1, and what the document says ahead of it."""
 
-import contextlib
-import io
 import itertools
 import unittest
 
+from checks import GREATEST, EveryCall, RowCase
 from spreadpoints.spread import sp_turn
 
 BASES = range(2, 17)
-GREATEST = 4294967295
 DIGIT_SIGNS = "0123456789abcdef"
 
 
-class TurnCase(unittest.TestCase):
-    def check_rows(self, rows):
-        for b, n, answer in rows:
-            with self.subTest(b=b, n=n):
-                self.assertEqual(sp_turn(b, n), answer)
+class TurnCase(RowCase):
+    call = staticmethod(sp_turn)
 
 
 class OrdinaryInputs(TurnCase):
@@ -118,45 +113,10 @@ class WrongInputs(TurnCase):
             self.check_rows([(b, n, [-2]) for n in (-1, -2147483648, GREATEST + 1)])
 
 
-class WhatIsGivenBack(unittest.TestCase):
+class WhatIsGivenBack(EveryCall, TurnCase):
+    names = ("b", "n")
     # Ordinary, edge and refused inputs alike.
     inputs = ((10, 1200), (2, 0), (16, GREATEST), (1, 5), (17, 0))
-
-    def test_a_list_of_whole_numbers(self):
-        for b, n in self.inputs:
-            with self.subTest(b=b, n=n):
-                answer = sp_turn(b, n)
-                self.assertIs(type(answer), list)
-                self.assertEqual([type(number) for number in answer], [int] * len(answer))
-
-    def test_second_call_gives_the_same_in_a_new_list(self):
-        for b, n in self.inputs:
-            with self.subTest(b=b, n=n):
-                first = sp_turn(b, n)
-                kept = list(first)
-                second = sp_turn(b, n)
-                self.assertEqual(second, kept)
-                self.assertIsNot(second, first)
-                first.append(7)
-                first[0] = 99
-                self.assertEqual(second, kept)
-                self.assertEqual(sp_turn(b, n), kept)
-
-    def test_calls_between_change_nothing(self):
-        alone = [sp_turn(b, n) for b, n in self.inputs]
-        backwards = [sp_turn(b, n) for b, n in reversed(self.inputs)]
-        self.assertEqual(backwards[::-1], alone)
-
-    def test_arguments_by_name(self):
-        self.assertEqual(sp_turn(b=10, n=123), [3, 321])
-        self.assertEqual(sp_turn(n=123, b=10), [3, 321])
-
-    def test_nothing_is_printed(self):
-        printed = io.StringIO()
-        with contextlib.redirect_stdout(printed), contextlib.redirect_stderr(printed):
-            for b, n in self.inputs:
-                sp_turn(b, n)
-        self.assertEqual(printed.getvalue(), "")
 
 
 if __name__ == "__main__":
