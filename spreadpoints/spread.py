@@ -67,3 +67,21 @@ def sp_star(n, q, a):
         greatest = max(greatest, abs(q * below - n * y), abs(q * no_greater - n * y))
         below = no_greater
     return [0, greatest]
+
+
+def each_in_own_part(q, points):
+    """Tell whether each of the points is in a part of its own, if the line is cut into as many parts as points."""
+    count = len(points)
+    return len(set([count * point // q for point in points])) == count
+
+
+def sp_long(n, q, a):
+    """Answer how many of the n points a / q can be put one after another, each time each in a part of its own."""
+    refusal = line_refusal(n, q, a)
+    if refusal != 0:
+        return [refusal]
+    longest = 0
+    # No row of points stays well beyond the seventeenth, so this ends early however long a is.
+    while longest < n and each_in_own_part(q, a[:longest + 1]):
+        longest = longest + 1
+    return [longest]

@@ -9,6 +9,10 @@ GREATEST = 4294967295
 LEAST_SIGNED = -2147483648
 GREATEST_SIGNED = 2147483647
 
+# Of the points on a line.
+GREATEST_COUNT = 4096
+GREATEST_Q = 2147483647
+
 
 def barred(*given, **named):
     raise AssertionError("a list that was handed in is changed")
@@ -98,3 +102,27 @@ class EveryCall:
             for given in self.inputs:
                 self.call(*given)
         self.assertEqual(printed.getvalue(), "")
+
+
+class LineRefusals:
+    """Refusals of n points a / q, the same for both functions that take them; RowCase stands beside it."""
+
+    def test_count_out_of_range(self):
+        for n in (0, -1, GREATEST_COUNT + 1, LEAST_SIGNED, GREATEST_SIGNED):
+            self.check_rows([(n, q, [], [-2]) for q in (1, 10, GREATEST_Q, 0, -1, LEAST_SIGNED)])
+
+    def test_q_out_of_range(self):
+        for q in (0, -1, LEAST_SIGNED):
+            self.check_rows([(n, q, [], [-2]) for n in (1, 3, GREATEST_COUNT)])
+
+    def test_point_not_below_q(self):
+        for q in (1, 10, GREATEST_Q):
+            for wrong in (q, q + 1, GREATEST):
+                self.check_rows([
+                    (1, q, [wrong], [-3]),
+                    (3, q, [wrong, 0, q - 1], [-3]),
+                    (3, q, [0, wrong, q - 1], [-3]),
+                    (3, q, [0, q - 1, wrong], [-3]),
+                    (2, q, [wrong, wrong], [-3]),
+                    (GREATEST_COUNT, q, [0] * (GREATEST_COUNT - 1) + [wrong], [-3]),
+                ])

@@ -3,11 +3,8 @@
 import itertools
 import unittest
 
-from checks import GREATEST, GREATEST_SIGNED, LEAST_SIGNED, EveryCall, RowCase
+from checks import GREATEST, GREATEST_COUNT, GREATEST_Q, EveryCall, LineRefusals, RowCase
 from spreadpoints.spread import sp_star
-
-GREATEST_COUNT = 4096
-GREATEST_Q = 2147483647
 
 
 def star_by_the_words(n, q, a):
@@ -116,26 +113,8 @@ class Edges(StarCase):
         ])
 
 
-class WrongInputs(StarCase):
-    def test_count_out_of_range(self):
-        for n in (0, -1, GREATEST_COUNT + 1, LEAST_SIGNED, GREATEST_SIGNED):
-            self.check_rows([(n, q, [], [-2]) for q in (1, 10, GREATEST_Q, 0, -1, LEAST_SIGNED)])
-
-    def test_q_out_of_range(self):
-        for q in (0, -1, LEAST_SIGNED):
-            self.check_rows([(n, q, [], [-2]) for n in (1, 3, GREATEST_COUNT)])
-
-    def test_point_not_below_q(self):
-        for q in (1, 10, GREATEST_Q):
-            for wrong in (q, q + 1, GREATEST):
-                self.check_rows([
-                    (1, q, [wrong], [-3]),
-                    (3, q, [wrong, 0, q - 1], [-3]),
-                    (3, q, [0, wrong, q - 1], [-3]),
-                    (3, q, [0, q - 1, wrong], [-3]),
-                    (2, q, [wrong, wrong], [-3]),
-                    (GREATEST_COUNT, q, [0] * (GREATEST_COUNT - 1) + [wrong], [-3]),
-                ])
+class WrongInputs(LineRefusals, StarCase):
+    """As for every row of points on a line."""
 
 
 class WhatIsGivenBack(EveryCall, StarCase):
