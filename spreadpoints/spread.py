@@ -10,6 +10,12 @@ GREATEST_TURN_NUMBER = 4294967295
 GREATEST_LINE_COUNT = 4096
 GREATEST_LINE_LENGTH = 2147483647
 
+LEAST_NET_BASE = 2
+GREATEST_NET_BASE = 5
+GREATEST_NET_DIGITS = 10
+GREATEST_NET_SIDES = 4
+GREATEST_NET_SIZE = 1024
+
 
 def in_range(number, least, greatest):
     """Tell whether number is from least to greatest."""
@@ -85,3 +91,67 @@ def sp_long(n, q, a):
     while longest < n and each_in_own_part(q, a[:longest + 1]):
         longest = longest + 1
     return [longest]
+
+
+def to_the_power(b, exponent):
+    """Give b to the exponent."""
+    product = 1
+    for step in range(exponent):
+        product = product * b
+    return product
+
+
+def ways_to_split(total, count):
+    """List every way to write total as a sum of count numbers from 0 on, in every order."""
+    ways = [[]]
+    for place in range(count - 1):
+        longer = []
+        for way in ways:
+            for number in range(total - sum(way) + 1):
+                longer.append(way + [number])
+        ways = longer
+    return [way + [total - sum(way)] for way in ways]
+
+
+def boxes_of_points(b, m, cuts, columns):
+    """Give each point's box as one number; a column holds one of the s numbers of every point."""
+    boxes = [0] * len(columns[0])
+    for d, column in zip(cuts, columns):
+        parts = to_the_power(b, d)
+        width = to_the_power(b, m - d)
+        boxes = [box * parts + number // width for box, number in zip(boxes, column)]
+    return boxes
+
+
+def each_held_so_often(boxes, often):
+    """Tell whether each number in boxes stands in it just so often."""
+    counts = {}
+    for box in boxes:
+        counts[box] = counts.get(box, 0) + 1
+    return all([count == often for count in counts.values()])
+
+
+def is_net(b, m, t, columns):
+    """Tell whether this t is one of those that sp_net seeks the least of."""
+    often = to_the_power(b, t)
+    for cuts in ways_to_split(m - t, len(columns)):
+        if not each_held_so_often(boxes_of_points(b, m, cuts, columns), often):
+            return False
+    return True
+
+
+def sp_net(b, m, s, l):
+    """Answer the least t for which each box that holds any of the points holds just b to the t of them."""
+    if not in_range(b, LEAST_NET_BASE, GREATEST_NET_BASE) or not in_range(m, 1, GREATEST_NET_DIGITS):
+        return [OUT_OF_RANGE]
+    size = to_the_power(b, m)
+    if size > GREATEST_NET_SIZE or not in_range(s, 1, GREATEST_NET_SIDES):
+        return [OUT_OF_RANGE]
+    if not all_below(l, size):
+        return [NOT_BELOW]
+    columns = [l[side::s] for side in range(s)]
+    t = 0
+    # This ends at m at the latest: the one box is then the whole, and holds all points.
+    while not is_net(b, m, t, columns):
+        t = t + 1
+    return [t]
