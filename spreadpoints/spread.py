@@ -16,6 +16,11 @@ GREATEST_NET_DIGITS = 10
 GREATEST_NET_SIDES = 4
 GREATEST_NET_SIZE = 1024
 
+LEAST_HAMMERSLEY_BASE = 2
+GREATEST_HAMMERSLEY_BASE = 16
+GREATEST_HAMMERSLEY_DIGITS = 16
+GREATEST_HAMMERSLEY_SIZE = 65536
+
 
 def in_range(number, least, greatest):
     """Tell whether number is from least to greatest."""
@@ -30,21 +35,35 @@ def all_below(numbers, bound):
     return True
 
 
+def count_digits(b, n):
+    """Give how many digits n has to the base b; 0 has none."""
+    digits = 0
+    rest = n
+    while rest > 0:
+        rest = rest // b
+        digits = digits + 1
+    return digits
+
+
+def turn_digits(b, n, digits):
+    """Give the number that the last so many digits of n to the base b are the other way about."""
+    turned = 0
+    rest = n
+    # The last digit of n comes off first, and so ends up in front.
+    for place in range(digits):
+        turned = turned * b + rest % b
+        rest = rest // b
+    return turned
+
+
 def sp_turn(b, n):
     """Answer how many digits n has to the base b, then the number that they are the other way about."""
     if not in_range(b, LEAST_TURN_BASE, GREATEST_TURN_BASE):
         return [OUT_OF_RANGE]
     if not in_range(n, 0, GREATEST_TURN_NUMBER):
         return [OUT_OF_RANGE]
-    digits = 0
-    turned = 0
-    rest = n
-    # The last digit of n comes off first, and so ends up in front.
-    while rest > 0:
-        turned = turned * b + rest % b
-        rest = rest // b
-        digits = digits + 1
-    return [digits, turned]
+    digits = count_digits(b, n)
+    return [digits, turn_digits(b, n, digits)]
 
 
 def line_refusal(n, q, a):
@@ -155,3 +174,19 @@ def sp_net(b, m, s, l):
     while not is_net(b, m, t, columns):
         t = t + 1
     return [t]
+
+
+def sp_hammersley(b, m):
+    """Answer b to the m, then for each k below it: k, and its m digits to the base b the other way about."""
+    if not in_range(b, LEAST_HAMMERSLEY_BASE, GREATEST_HAMMERSLEY_BASE):
+        return [OUT_OF_RANGE]
+    if not in_range(m, 1, GREATEST_HAMMERSLEY_DIGITS):
+        return [OUT_OF_RANGE]
+    size = to_the_power(b, m)
+    if size > GREATEST_HAMMERSLEY_SIZE:
+        return [OUT_OF_RANGE]
+    answer = [size]
+    for k in range(size):
+        answer.append(k)
+        answer.append(turn_digits(b, k, m))
+    return answer
