@@ -21,6 +21,8 @@ GREATEST_HAMMERSLEY_BASE = 16
 GREATEST_HAMMERSLEY_DIGITS = 16
 GREATEST_HAMMERSLEY_SIZE = 65536
 
+GREATEST_BOX_COUNT = 65536
+
 
 def in_range(number, least, greatest):
     """Tell whether number is from least to greatest."""
@@ -190,3 +192,14 @@ def sp_hammersley(b, m):
         answer.append(k)
         answer.append(turn_digits(b, k, m))
     return answer
+
+
+def sp_box(n, x, y, l):
+    """Answer how many of the n points, two numbers each, have the first below x and the second below y."""
+    if not in_range(n, 0, GREATEST_BOX_COUNT):
+        return [OUT_OF_RANGE]
+    inside = 0
+    for first, second in zip(l[0::2], l[1::2]):
+        if first < x and second < y:
+            inside = inside + 1
+    return [inside]

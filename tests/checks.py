@@ -112,7 +112,7 @@ class LineRefusals:
             self.check_rows([(n, q, [], [-2]) for q in (1, 10, GREATEST_Q, 0, -1, LEAST_SIGNED)])
 
     def test_q_out_of_range(self):
-        for q in (0, -1, LEAST_SIGNED):
+        for q in (0, -1, LEAST_SIGNED, GREATEST_Q + 1):
             self.check_rows([(n, q, [], [-2]) for n in (1, 3, GREATEST_COUNT)])
 
     def test_point_not_below_q(self):

@@ -59,6 +59,22 @@ class Form(unittest.TestCase):
             for node in ast.walk(ast.parse(text)):
                 self.assertNotIsInstance(node, BARRED_NODES, name)
 
+    def test_no_else_behind_a_loop(self):
+        for name, text in package_texts():
+            for node in ast.walk(ast.parse(text)):
+                if isinstance(node, (ast.For, ast.While)):
+                    self.assertEqual(node.orelse, [], name)
+
+    def test_exponents_are_written(self):
+        for name, text in package_texts():
+            for node in ast.walk(ast.parse(text)):
+                if isinstance(node, ast.BinOp) and isinstance(node.op, ast.Pow):
+                    self.assertIsInstance(node.right, ast.Constant, name)
+
+    def test_the_functions_import_nothing(self):
+        for node in ast.walk(ast.parse((PACKAGE / "spread.py").read_text())):
+            self.assertNotIsInstance(node, (ast.Import, ast.ImportFrom))
+
     def test_only_known_names_are_called(self):
         for name, text in package_texts():
             tree = ast.parse(text)
